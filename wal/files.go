@@ -7,6 +7,7 @@ import (
 	"tabellion/api"
 	"tabellion/disk"
 	"tabellion/frame"
+	"tabellion/owner"
 )
 
 // files of a log. Each record lies in one of its own, called by its number: a write can't begin far inside of a file,
@@ -29,12 +30,12 @@ func must(errno api.Errno) {
 
 // recordFront is how the names of records' files begin.
 func (f files) recordFront() string {
-	return f.name + "."
+	return owner.File(f.name, "")
 }
 
 // markFront is how the name of the file begins that tells the first number.
 func (f files) markFront() string {
-	return f.name + ".f"
+	return owner.File(f.name, "f")
 }
 
 // called answers the name of the file of a number.

@@ -5,6 +5,7 @@ import (
 	"math/bits"
 
 	"tabellion/api"
+	"tabellion/quit"
 )
 
 // widest is how many bytes the greatest number takes.
@@ -64,7 +65,7 @@ func (r *Reader) Raw(most int) (text []byte, errno api.Errno) {
 func (r *Reader) End() api.Errno {
 	return r.attempt(func(r *Reader) {
 		if r.Left() > 0 {
-			giveUp(api.ErrTail)
+			quit.Must(api.ErrTail)
 		}
 	})
 }
@@ -77,16 +78,8 @@ func (r *Reader) Left() int {
 	return len(r.b) - r.at
 }
 
-// unread is what a reading that gives up panics with. It is a type of its own, so that no other panic is taken for it.
-type unread struct{ errno api.Errno }
-
-// giveUp ends a reading with an error.
-func giveUp(errno api.Errno) {
-	panic(unread{errno})
-}
-
 // attempt does one reading. If it gives up, the reader is stuck from then on, and stands where it stood ahead of it.
-func (r *Reader) attempt(reading func(*Reader)) (errno api.Errno) {
+func (r *Reader) attempt(reading func(*Reader)) api.Errno {
 	if r == nil {
 		r = &Reader{}
 	}
@@ -94,26 +87,17 @@ func (r *Reader) attempt(reading func(*Reader)) (errno api.Errno) {
 		return r.stuck
 	}
 	at := r.at
-	defer func() {
-		cause := recover()
-		if cause == nil {
-			return
-		}
-		gave, ok := cause.(unread)
-		if !ok {
-			panic(cause) // a fault of the program, not of the bytes
-		}
-		r.at, r.stuck = at, gave.errno
-		errno = gave.errno
-	}()
-	reading(r)
-	return api.OK
+	errno := quit.Caught(func() { reading(r) })
+	if errno != api.OK {
+		r.at, r.stuck = at, errno
+	}
+	return errno
 }
 
 // next takes one byte, or gives up.
 func (r *Reader) next() byte {
 	if r.Left() == 0 {
-		giveUp(api.ErrShort)
+		quit.Must(api.ErrShort)
 	}
 	c := r.b[r.at]
 	r.at++
@@ -124,13 +108,13 @@ func (r *Reader) next() byte {
 func (r *Reader) number() uint64 {
 	k := int(r.next())
 	if k > widest {
-		giveUp(api.ErrForm)
+		quit.Must(api.ErrForm)
 	}
 	var n uint64
 	for i := range k {
 		c := r.next()
 		if i == 0 && c == 0 {
-			giveUp(api.ErrForm) // the number has a shorter form
+			quit.Must(api.ErrForm) // the number has a shorter form
 		}
 		n = n<<8 | uint64(c)
 	}
@@ -141,10 +125,10 @@ func (r *Reader) number() uint64 {
 func (r *Reader) text(most int) []byte {
 	n := r.number()
 	if n > uint64(max(most, 0)) {
-		giveUp(api.ErrLong)
+		quit.Must(api.ErrLong)
 	}
 	if n > uint64(r.Left()) {
-		giveUp(api.ErrShort)
+		quit.Must(api.ErrShort)
 	}
 	text := make([]byte, n)
 	r.at += copy(text, r.b[r.at:])

@@ -8,6 +8,7 @@ import (
 	"tabellion/disk"
 	"tabellion/frame"
 	"tabellion/owner"
+	"tabellion/quit"
 )
 
 // files of a log. Each record lies in one of its own, called by its number: a write can't begin far inside of a file,
@@ -16,16 +17,6 @@ import (
 type files struct {
 	d    *disk.Disk
 	name string
-}
-
-// refused is what a call gives up with. It is a type of its own, so that no other panic is taken for it.
-type refused struct{ errno api.Errno }
-
-// must gives up where the disk didn't do what it was told.
-func must(errno api.Errno) {
-	if errno != api.OK {
-		panic(refused{errno})
-	}
 }
 
 // recordFront is how the names of records' files begin.
@@ -59,8 +50,8 @@ func numberIn(front, file string) (uint64, bool) {
 // lay a record down.
 func (f files) lay(n uint64, rec []byte) {
 	text, errno := frame.Lay([][]byte{rec})
-	must(errno)
-	must(f.d.Write(called(f.recordFront(), n), 0, text))
+	quit.Must(errno)
+	quit.Must(f.d.Write(called(f.recordFront(), n), 0, text))
 }
 
 // read a record; false, if it isn't there as a whole.
@@ -69,7 +60,7 @@ func (f files) read(n uint64) ([]byte, bool) {
 	if errno == api.ErrNone {
 		return nil, false
 	}
-	must(errno)
+	quit.Must(errno)
 	rec, size, errno := frame.One(text)
 	if errno != api.OK || size != len(text) {
 		return nil, false
@@ -80,7 +71,7 @@ func (f files) read(n uint64) ([]byte, bool) {
 // drop the records from one number to below another, the last one first.
 func (f files) drop(from, to uint64) {
 	for n := to; n > from; n-- {
-		must(f.d.Remove(called(f.recordFront(), n-1)))
+		quit.Must(f.d.Remove(called(f.recordFront(), n-1)))
 	}
 }
 
@@ -100,9 +91,9 @@ func (f files) mark(old, first uint64) {
 	switch {
 	case old == first:
 	case old == 0:
-		must(f.d.Write(called(f.markFront(), first), 0, nil))
+		quit.Must(f.d.Write(called(f.markFront(), first), 0, nil))
 	default:
-		must(f.d.Rename(called(f.markFront(), old), called(f.markFront(), first)))
+		quit.Must(f.d.Rename(called(f.markFront(), old), called(f.markFront(), first)))
 	}
 }
 
@@ -110,7 +101,7 @@ func (f files) mark(old, first uint64) {
 func (f files) sweep(first, next uint64) {
 	for _, file := range f.d.List() {
 		if strings.HasPrefix(file, f.recordFront()) && !f.isOf(file, first, next) {
-			must(f.d.Remove(file))
+			quit.Must(f.d.Remove(file))
 		}
 	}
 }
@@ -126,5 +117,5 @@ func (f files) isOf(file string, first, next uint64) bool {
 
 // sync all that was done.
 func (f files) sync() {
-	must(f.d.Sync())
+	quit.Must(f.d.Sync())
 }

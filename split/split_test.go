@@ -5,6 +5,7 @@ import (
 	"math/rand"
 	"testing"
 
+	"tabellion/api"
 	"tabellion/split"
 )
 
@@ -37,6 +38,22 @@ func TestPowersAndBetween(t *testing.T) {
 	for _, n := range list {
 		if got, want := split.At(n), below(n); got != want {
 			t.Errorf("At(%d): %d, want %d", n, got, want)
+		}
+	}
+}
+
+func TestLength(t *testing.T) {
+	for has := range 70 {
+		for needs := range 70 {
+			want := api.OK
+			if has < needs {
+				want = api.ErrShort
+			} else if has > needs {
+				want = api.ErrLong
+			}
+			if got := split.Length(has, needs); got != want {
+				t.Errorf("Length(%d, %d): %d, want %d", has, needs, got, want)
+			}
 		}
 	}
 }
